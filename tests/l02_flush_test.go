@@ -190,20 +190,26 @@ func TestDiskArgumentsStay(t *testing.T) {
 	}
 	for name, call := range diskCalls() {
 		for what, d := range disks {
-			given, keep := roomy(d), []int64{1, 0, 2, -1, 5}
-			got := call(given, keep)
-			want := diskTwin(got)
-			sameDisk(t, name+", "+what+": the disk", given, d)
-			same(t, name+", "+what+": the list", keep, []int64{1, 0, 2, -1, 5})
-			same(t, name+", "+what+": behind the sectors", given.Sectors[:len(d.Sectors)+2][len(d.Sectors):], []string{"behind", "behind"})
-			same(t, name+", "+what+": behind what is pending", given.Pending[:len(d.Pending)+1][len(d.Pending)], impl.Pending{At: 7, Data: "behind"})
-			spoil(given)
-			sameDisk(t, name+", "+what+": the answer, when the disk is spoilt", got, want)
-			given = roomy(d)
-			spoil(call(given, keep))
-			sameDisk(t, name+", "+what+": the disk, when the answer is spoilt", given, d)
+			disksStay(t, name+", "+what, call, d)
 		}
 	}
+}
+
+// disksStay looks whether a call leaves the disk and the list as they are, and answers in memory of its own.
+func disksStay(t *testing.T, what string, call func(d impl.Disk, keep []int64) impl.Disk, d impl.Disk) {
+	t.Helper()
+	given, keep := roomy(d), []int64{1, 0, 2, -1, 5}
+	got := call(given, keep)
+	want := diskTwin(got)
+	sameDisk(t, what+": the disk", given, d)
+	same(t, what+": the list", keep, []int64{1, 0, 2, -1, 5})
+	same(t, what+": behind the sectors", given.Sectors[:len(d.Sectors)+2][len(d.Sectors):], []string{"behind", "behind"})
+	same(t, what+": behind what is pending", given.Pending[:len(d.Pending)+1][len(d.Pending)], impl.Pending{At: 7, Data: "behind"})
+	spoil(given)
+	sameDisk(t, what+": the answer, when the disk is spoilt", got, want)
+	given = roomy(d)
+	spoil(call(given, keep))
+	sameDisk(t, what+": the disk, when the answer is spoilt", given, d)
 }
 
 // Nothing is kept from one call to the next.
