@@ -111,14 +111,56 @@ func TestAreaReadOfPending(t *testing.T) {
 	sameArea(t, "the text again", impl.AreaRead(d), impl.AreaOut{Disk: d, Text: "mo", Gen: 4})
 }
 
-// What a side has is counted over all of its sectors, also if one that is not the last one is not full.
-func TestAreaReadOfSectorsNotFull(t *testing.T) {
-	d := headed(impl.DiskNew(7), headOf(2, 1, 6))
-	d.Sectors[4], d.Sectors[6] = "abc", "defg"
-	sameArea(t, "one behind the other", impl.AreaRead(d), impl.AreaOut{Disk: d, Text: "abcdef", Gen: 2})
-	d = headed(d, headOf(2, 1, 7))
-	sameArea(t, "all there is", impl.AreaRead(d), impl.AreaOut{Disk: d, Text: "abcdefg", Gen: 2})
-	sameArea(t, "one more", impl.AreaRead(headed(d, headOf(2, 1, 8))), areaFault(impl.ErrSum))
+// Promise 4: each sector of a text must have its whole part of it, all but the last one 64 bytes. Each
+// one is cut to each length while all others are full; those behind the text may have any.
+func TestEachSectorOfATextCut(t *testing.T) {
+	for _, n := range []int{0, 1, 63, 64, 65, 127, 128, 129, 191, 192} {
+		for side := range 2 {
+			a := brimful(areaOn(impl.DiskNew(7), 2, side, mixed(n)))
+			for i := range halfOf(a.disk) {
+				part := min(max(n-i*impl.SectorSize, 0), impl.SectorSize)
+				at := 1 + side*halfOf(a.disk) + i
+				for left := range impl.SectorSize + 1 {
+					what := fmt.Sprintf("%d bytes, side %d, sector %d cut to %d", n, side, at, left)
+					cutInAndPending(t, what, a, at, left, left >= part)
+				}
+			}
+		}
+	}
+}
+
+// cutInAndPending looks at a text of which one sector is cut: the sector itself, and what is pending of it.
+func cutInAndPending(t *testing.T, what string, a area, at int, left int, whole bool) {
+	t.Helper()
+	full, cut := a.disk.Sectors[at], a.disk.Sectors[at][:left]
+	stands := diskTwin(a.disk)
+	stands.Sectors[at] = cut
+	for how, d := range map[string]impl.Disk{
+		"in it":       stands,
+		"pending":     plus(a.disk, int64(at), cut),
+		"and pending": plus(plus(stands, int64(at), full), int64(at), cut),
+	} {
+		read, put := areaFault(impl.ErrSum), areaFault(impl.ErrSum)
+		if whole {
+			read = impl.AreaOut{Disk: d, Text: a.text, Gen: a.gen}
+			put = putSlowly(area{disk: d, text: a.text, gen: a.gen, side: a.side}, "x", 1)
+		}
+		sameArea(t, what+" "+how, impl.AreaRead(d), read)
+		sameArea(t, what+" "+how+", put", impl.AreaPut(d, "x", 1), put)
+	}
+	mended := plus(stands, int64(at), full)
+	sameArea(t, what+", mended", impl.AreaRead(mended), impl.AreaOut{Disk: mended, Text: a.text, Gen: a.gen})
+}
+
+// The first sector is the last one of a short text, which may have less or more than is left there.
+func TestAreaReadOfOneSectorNotFull(t *testing.T) {
+	d := impl.Disk{Sectors: []string{headOf(2, 1, 3), "", "", "", "abc", "", "defg"}}
+	sameArea(t, "all there is", impl.AreaRead(d), impl.AreaOut{Disk: d, Text: "abc", Gen: 2})
+	d = headed(d, headOf(2, 1, 2))
+	sameArea(t, "more than is left", impl.AreaRead(d), impl.AreaOut{Disk: d, Text: "ab", Gen: 2})
+	for n := 4; n <= 7; n++ {
+		sameArea(t, fmt.Sprintf("%d bytes", n), impl.AreaRead(headed(d, headOf(2, 1, n))), areaFault(impl.ErrSum))
+	}
 }
 
 func TestAreaReadFaults(t *testing.T) {

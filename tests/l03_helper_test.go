@@ -101,6 +101,15 @@ func laden(a area, pending int) area {
 	return a
 }
 
+// brimful is the same area, of which each sector but the head's is filled up behind what it has.
+func brimful(a area) area {
+	a.disk = diskTwin(a.disk)
+	for at := 1; at < len(a.disk.Sectors); at++ {
+		a.disk.Sectors[at] += mixed(impl.SectorSize)[len(a.disk.Sectors[at]):]
+	}
+	return a
+}
+
 // rightAreas are disks on which a text stands, up to the limits; none of a number with no next one.
 func rightAreas() map[string]area {
 	overfull := areaOn(filled(9), 3, 0, mixed(70))
@@ -191,7 +200,31 @@ func wrongAreas() map[string]wrongArea {
 	for what, body := range noHeads() {
 		list["no head: "+what] = wrongArea{headed(good, sealed(body)), impl.ErrSyntax}
 	}
+	for what, d := range sidesCut() {
+		list["a sector cut: "+what] = wrongArea{d, impl.ErrSum}
+	}
 	return list
+}
+
+// sidesCut are disks on which a sector of the text has too few bytes, but all of the side together have
+// as many as the head tells.
+func sidesCut() map[string]impl.Disk {
+	sector := mixed(impl.SectorSize)
+	ahead := headed(impl.DiskNew(7), headOf(2, 1, 6))
+	ahead.Sectors[4], ahead.Sectors[6] = "abc", "defg"
+	return map[string]impl.Disk{
+		"the first, short ones":        {Sectors: []string{headOf(1, 0, 4), "ab", "cd", "", ""}},
+		"the only one is empty":        {Sectors: []string{headOf(1, 0, 1), "", "a", "", ""}},
+		"the only one has less":        ahead,
+		"the first has a byte less":    {Sectors: []string{headOf(3, 1, 70), "", "", "", sector[:63], "abcdefgh", sector}},
+		"the first is empty":           {Sectors: []string{headOf(3, 1, 64), "", "", "", "", sector, sector}},
+		"the middle one":               {Sectors: []string{headOf(3, 0, 129), sector, sector[:63], sector, "", "", ""}},
+		"the last has a byte less":     {Sectors: []string{headOf(3, 1, 70), "", "", "", sector, "abcde", sector}},
+		"the last is empty":            {Sectors: []string{headOf(3, 0, 65), sector, "", sector, "", "", ""}},
+		"pending, ahead of a full one": plus(areaOn(filled(9), 2, 0, mixed(192)).disk, 2, sector[:63]),
+		"pending, behind a full one":   plus(brimful(areaOn(filled(9), 2, 0, mixed(70))).disk, 2, "abcde"),
+		"pending, and more behind it":  plus(plus(areaOn(filled(9), 2, 1, mixed(64)).disk, 5, sector[:63]), 6, sector),
+	}
 }
 
 // noHeads are well sealed, and no heads of five sectors.
