@@ -68,10 +68,10 @@ func (w *three) hear(t *testing.T, who int, u impl.Update) int64 {
 	return out.Code
 }
 
-// part is an update, of which some is left out.
-func (w *three) part(u impl.Update) impl.Update {
-	often := 2 + w.r.Intn(4)
-	leftOut := func() bool { return w.r.Intn(often) == 0 }
+// partOf is an update, of which some is left out.
+func partOf(r *rand.Rand, u impl.Update) impl.Update {
+	often := 2 + r.Intn(4)
+	leftOut := func() bool { return r.Intn(often) == 0 }
 	u = updateTwin(u)
 	u.Items = slices.DeleteFunc(u.Items, func(impl.Item) bool { return leftOut() })
 	u.Gone = slices.DeleteFunc(u.Gone, func(impl.Id) bool { return leftOut() })
@@ -91,11 +91,11 @@ func (w *three) step(t *testing.T) {
 	case n < 7:
 		w.hear(t, who, impl.DiffOf(w.docs[from], impl.MarksOf(w.docs[who])))
 	case n < 8:
-		w.hear(t, who, w.part(impl.DiffOf(w.docs[from], nil)))
+		w.hear(t, who, partOf(w.r, impl.DiffOf(w.docs[from], nil)))
 	case len(w.late) > 0:
 		u := w.late[w.r.Intn(len(w.late))]
 		if w.r.Intn(2) == 0 {
-			u = w.part(u)
+			u = partOf(w.r, u)
 		}
 		w.hear(t, who, u)
 	}
